@@ -99,12 +99,19 @@ func TestO1Examples(t *testing.T) {
 	}
 }
 
-// TestO1Circle asks for each number of the circle: there nothing of the next one is added.
+// TestO1Circle asks for each number of the circle: there nothing of the next one is added. What Sine reads, what a shape works out and what a voice sings are one circle.
 func TestO1Circle(t *testing.T) {
+	sings := render(t, begin(t, api.Patch{Shape: api.ShapeSine, Step: 1 << 24, Gain: 1, Sustain: api.One}), 256)
 	for k, want := range isCircle()[:256] {
 		got := voice.Sine(uint32(k) << 24)
 		if !same(got, want) {
 			t.Errorf("number %d: %x, not %x", k, got, want)
+		}
+		if x, err := voice.Shape(api.ShapeSine, uint32(k)<<24); !same(x, want) || err != api.OK {
+			t.Errorf("number %d of a shape: %x %d, not %x", k, x, err, want)
+		}
+		if !same(sings[k], want) {
+			t.Errorf("number %d of a voice: %x, not %x", k, sings[k], want)
 		}
 		if sine := math.Sin(2 * math.Pi * float64(k) / 256); math.Abs(got-sine) > 1e-14 {
 			t.Errorf("number %d: %v, far from %v", k, got, sine)
